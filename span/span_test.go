@@ -103,12 +103,38 @@ func TestHasEmptySizeAtTheEndsOfInt(t *testing.T) {
 	}
 }
 
+// row is a list of ranges, and what a call is to answer of it.
+type row struct {
+	l    []api.Range
+	want api.Range
+}
+
+func holds(t *testing.T, name string, call func(l ...api.Range) api.Range, rows ...row) {
+	t.Helper()
+	for _, x := range rows {
+		if got := call(x.l...); got != x.want {
+			t.Errorf("%s(%v) = %v, want %v", name, x.l, got, x.want)
+		}
+	}
+}
+
+// holdsOfNumbers asks a call of many three ranges, and holds it against the numbers, unsorted, that such an answer must have.
+func holdsOfNumbers(t *testing.T, name string, call func(l ...api.Range) api.Range, want func(a, b, c []int) []int) {
+	t.Helper()
+	for _, a := range small() {
+		for _, b := range small() {
+			for _, c := range []api.Range{rng(-4, 4), rng(-1, 2), rng(0, 0), rng(3, 2)} {
+				l := want(numbers(a), numbers(b), numbers(c))
+				slices.Sort(l)
+				holds(t, name, call, row{[]api.Range{a, b, c}, ends(l)})
+			}
+		}
+	}
+}
+
 // P1.2
 func TestBoth(t *testing.T) {
-	cases := []struct {
-		l    []api.Range
-		want api.Range
-	}{
+	rows := []row{
 		{nil, empty},
 		{[]api.Range{}, empty},
 		{[]api.Range{rng(2, 3)}, rng(2, 3)},
@@ -125,38 +151,19 @@ func TestBoth(t *testing.T) {
 		{[]api.Range{rng(math.MinInt, math.MinInt), rng(math.MaxInt, math.MaxInt)}, empty},
 		{[]api.Range{rng(math.MaxInt, math.MinInt), rng(math.MinInt, math.MaxInt)}, empty},
 	}
-	for _, c := range cases {
-		if got := Both(c.l...); got != c.want {
-			t.Errorf("Both(%v) = %v, want %v", c.l, got, c.want)
-		}
-	}
+	holds(t, "Both", Both, rows...)
 }
 
 // P1.2
 func TestBothOfManyIsWhatAllHave(t *testing.T) {
-	for _, a := range small() {
-		for _, b := range small() {
-			for _, c := range []api.Range{rng(-4, 4), rng(-1, 2), rng(0, 0), rng(3, 2)} {
-				var want []int
-				for _, n := range numbers(a) {
-					if slices.Contains(numbers(b), n) && slices.Contains(numbers(c), n) {
-						want = append(want, n)
-					}
-				}
-				if got := Both(a, b, c); got != ends(want) {
-					t.Fatalf("Both(%v, %v, %v) = %v, want %v", a, b, c, got, ends(want))
-				}
-			}
-		}
-	}
+	holdsOfNumbers(t, "Both", Both, func(a, b, c []int) []int {
+		return slices.DeleteFunc(a, func(n int) bool { return !slices.Contains(b, n) || !slices.Contains(c, n) })
+	})
 }
 
 // P1.3
 func TestCover(t *testing.T) {
-	cases := []struct {
-		l    []api.Range
-		want api.Range
-	}{
+	rows := []row{
 		{nil, empty},
 		{[]api.Range{}, empty},
 		{[]api.Range{rng(2, 3)}, rng(2, 3)},
@@ -171,26 +178,12 @@ func TestCover(t *testing.T) {
 		{[]api.Range{rng(1, 9), rng(3, 4)}, rng(1, 9)},
 		{[]api.Range{rng(math.MinInt, math.MinInt), rng(math.MaxInt, math.MaxInt)}, rng(math.MinInt, math.MaxInt)},
 	}
-	for _, c := range cases {
-		if got := Cover(c.l...); got != c.want {
-			t.Errorf("Cover(%v) = %v, want %v", c.l, got, c.want)
-		}
-	}
+	holds(t, "Cover", Cover, rows...)
 }
 
 // P1.3
 func TestCoverOfManyIsTheLeast(t *testing.T) {
-	for _, a := range small() {
-		for _, b := range small() {
-			for _, c := range []api.Range{rng(-4, 4), rng(-1, 2), rng(0, 0), rng(3, 2)} {
-				l := slices.Concat(numbers(a), numbers(b), numbers(c))
-				slices.Sort(l)
-				if got := Cover(a, b, c); got != ends(l) {
-					t.Fatalf("Cover(%v, %v, %v) = %v, want %v", a, b, c, got, ends(l))
-				}
-			}
-		}
-	}
+	holdsOfNumbers(t, "Cover", Cover, func(a, b, c []int) []int { return slices.Concat(a, b, c) })
 }
 
 // P1.4
